@@ -2,6 +2,7 @@ package demand
 
 import (
 	"reflect"
+	"runtime"
 	"slices"
 	"sync"
 	"testing"
@@ -126,6 +127,9 @@ func TestP901StepsShareNothing(t *testing.T) {
 				}
 			}
 		}
+		// What is let go may rightly be a later answer's memory.
+		runtime.KeepAlive(a)
+		runtime.KeepAlive(kept)
 		for i, l := range kept {
 			clear(l[:cap(l)])
 			inHigh := modes[i%2]

@@ -2,6 +2,7 @@ package flow
 
 import (
 	"reflect"
+	"runtime"
 	"slices"
 	"sync"
 	"testing"
@@ -80,8 +81,12 @@ func TestP701AnswersShareNothing(t *testing.T) {
 	each(func(what string, c conf.Config, l []int) {
 		c, l = withRoom(c), roomy(l, 1)
 		all := append(rooms(c), room(l))
+		// Kept, as the memory of what is let go may rightly be that of a later answer.
+		var kept []any
 		for range 2 {
-			all = append(all, room(Edges(c)), room(Into(c, l...)), room(Cut(c, l...)))
+			edges, into, cut := Edges(c), Into(c, l...), Cut(c, l...)
+			kept = append(kept, edges, into, cut)
+			all = append(all, room(edges), room(into), room(cut))
 		}
 		for i, a := range all {
 			for _, b := range all[:i] {
@@ -90,6 +95,7 @@ func TestP701AnswersShareNothing(t *testing.T) {
 				}
 			}
 		}
+		runtime.KeepAlive(kept)
 	})
 }
 

@@ -2,6 +2,7 @@ package supply
 
 import (
 	"reflect"
+	"runtime"
 	"slices"
 	"sync"
 	"testing"
@@ -122,9 +123,12 @@ func TestP801SuppliesShareNothing(t *testing.T) {
 	for _, s := range shapes() {
 		table := tableOf(t, s)
 		all := rooms(reflect.ValueOf(table), nil)
+		// Kept, as the memory of what is let go may rightly be that of a later one.
+		var kept []*Supply
 		for p := range 6 {
 			for range 2 {
-				all = rooms(reflect.ValueOf(Of(table, p)), all)
+				kept = append(kept, Of(table, p))
+				all = rooms(reflect.ValueOf(kept[len(kept)-1]), all)
 			}
 		}
 		for i, a := range all {
@@ -134,6 +138,8 @@ func TestP801SuppliesShareNothing(t *testing.T) {
 				}
 			}
 		}
+		runtime.KeepAlive(kept)
+		runtime.KeepAlive(table)
 	}
 }
 
